@@ -128,3 +128,40 @@ func (a *bitArray) putPart(b *bitArray, from int64, n int64) {
 		n -= step
 	}
 }
+
+// A bitReader takes one number after the other from the bits, from the index
+// `at` on. It panics where the bits are no encoding of what is read, so that
+// its callers need no checks; readFrom turns that into false.
+type bitReader struct {
+	bits bitArray
+	at   int64
+}
+
+func (r *bitReader) take(n int64) uint64 {
+	if n > r.bits.n-r.at {
+		r.fail()
+	}
+	v := r.bits.get(r.at, n)
+	r.at += n
+	return v
+}
+
+func (r *bitReader) fail() {
+	panic("the bits are no encoding")
+}
+
+// readFrom returns what read reads from the index `at` on, and the index
+// behind it. If read panics, the results still have their zero values.
+func readFrom[T any](b Bits, at int64, read func(r *bitReader) T) (value T, end int64, ok bool) {
+	if !hasBits(b, at, 0) {
+		return value, 0, false
+	}
+	defer func() {
+		if recover() != nil {
+			ok = false
+		}
+	}()
+	r := bitReader{bits: unpacked(b), at: at}
+	value = read(&r)
+	return value, r.at, true
+}

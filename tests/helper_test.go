@@ -2,6 +2,7 @@ package tests
 
 import (
 	"math/rand/v2"
+	"slices"
 	"strings"
 	"testing"
 
@@ -77,4 +78,19 @@ func wantNoBits(t *testing.T, got impl.Bits, ok bool) {
 	if ok || got != (impl.Bits{}) {
 		t.Errorf("got %q, %d bits, %v; want no bits, false", got.Data, got.N, ok)
 	}
+}
+
+// invert returns the digits with the digit i exchanged.
+func invert(digits string, i int) string {
+	out := []byte(digits)
+	out[i] ^= '0' ^ '1'
+	return string(out)
+}
+
+// withSpare returns a copy of l with elements behind its end, and a function
+// that tells whether neither l nor these elements have changed.
+func withSpare(l []int64) ([]int64, func() bool) {
+	all := append(slices.Clone(l), 7, 8, 9)
+	before := slices.Clone(all)
+	return all[:len(l)], func() bool { return slices.Equal(all, before) }
 }
