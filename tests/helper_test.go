@@ -87,10 +87,10 @@ func invert(digits string, i int) string {
 	return string(out)
 }
 
-// withSpare returns a copy of l with elements behind its end, and a function
-// that tells whether neither l nor these elements have changed.
-func withSpare(l []int64) ([]int64, func() bool) {
-	all := append(slices.Clone(l), 7, 8, 9)
+// withSpare returns a copy of l with spare elements behind its end, and a
+// function that tells whether neither l nor these elements have changed.
+func withSpare[T comparable](l []T, spare ...T) ([]T, func() bool) {
+	all := append(slices.Clone(l), spare...)
 	before := slices.Clone(all)
 	return all[:len(l)], func() bool { return slices.Equal(all, before) }
 }

@@ -316,7 +316,7 @@ func TestTimesOfChangedBits(t *testing.T) {
 
 func TestTimesAreNotModified(t *testing.T) {
 	for _, times := range [][]int64{nil, {1, 2, 3, 9}, {3, 2, 1}} {
-		l, unchanged := withSpare(times)
+		l, unchanged := withSpare(times, 7, 8, 9)
 		impl.TimesOk(l)
 		first, _ := impl.TimesBits(l)
 		if again, _ := impl.TimesBits(l); !unchanged() || first != again {

@@ -260,7 +260,7 @@ func TestValuesOfChangedBits(t *testing.T) {
 
 func TestValuesAreNotModified(t *testing.T) {
 	for _, values := range [][]int64{nil, {1, 2, 3, 9}, make([]int64, maxPoints+1)} {
-		l, unchanged := withSpare(values)
+		l, unchanged := withSpare(values, 7, 8, 9)
 		first, _ := impl.ValuesBits(l)
 		if again, _ := impl.ValuesBits(l); !unchanged() || first != again {
 			t.Error(values)
