@@ -94,3 +94,12 @@ func withSpare[T comparable](l []T, spare ...T) ([]T, func() bool) {
 	before := slices.Clone(all)
 	return all[:len(l)], func() bool { return slices.Equal(all, before) }
 }
+
+// overwrite changes l and the spare elements behind its end, so that a list
+// that shares memory with it is seen to change.
+func overwrite[T any](l []T, with T) {
+	l = l[:cap(l)]
+	for i := range l {
+		l[i] = with
+	}
+}
