@@ -50,8 +50,10 @@ func wantOwnMemory(t *testing.T, result any, arguments ...any) {
 				t.Fatalf("two lists of %v share memory", result)
 			}
 		}
-		for _, argument := range arguments {
-			for _, b := range regionsOf(reflect.ValueOf(argument)) {
+	}
+	for _, argument := range arguments {
+		for _, b := range regionsOf(reflect.ValueOf(argument)) {
+			for _, a := range own {
 				if a.meets(b) {
 					t.Fatalf("%v shares memory with %v", result, argument)
 				}
