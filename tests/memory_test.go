@@ -2,6 +2,7 @@ package tests
 
 import (
 	"reflect"
+	"strings"
 	"testing"
 	"unsafe"
 
@@ -63,7 +64,7 @@ func wantOwnMemory(t *testing.T, result any, arguments ...any) {
 }
 
 // copyOf returns a copy of x in which the spare elements of each list belong to
-// the list.
+// the list. It shares no strings with x, so that a change of their bytes is seen.
 func copyOf(x reflect.Value) reflect.Value {
 	out := reflect.New(x.Type()).Elem()
 	switch x.Kind() {
@@ -75,6 +76,8 @@ func copyOf(x reflect.Value) reflect.Value {
 		for i := range x.NumField() {
 			out.Field(i).Set(copyOf(x.Field(i)))
 		}
+	case reflect.String:
+		out.SetString(strings.Clone(x.String()))
 	default:
 		out.Set(x)
 	}
@@ -138,6 +141,13 @@ func TestMemory(t *testing.T) {
 	d.Series[0].L[:4][3].Val = "other"
 	if reflect.DeepEqual(before, copyOf(reflect.ValueOf(d)).Interface()) {
 		t.Error("a change is not seen")
+	}
+	data := []byte("data")
+	blocks := []impl.Block{{Data: unsafe.String(&data[0], len(data))}}
+	before = copyOf(reflect.ValueOf(blocks)).Interface()
+	data[1] = 'e'
+	if reflect.DeepEqual(before, copyOf(reflect.ValueOf(blocks)).Interface()) {
+		t.Error("a change of the bytes of a string is not seen")
 	}
 }
 
